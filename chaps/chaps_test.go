@@ -196,7 +196,10 @@ func TestRefused(t *testing.T) {
 	flipped.Data[49-1] ^= 1
 	other := response(1, "ann", "secret")
 	other.Data = append(other.Data[:50:50], "bob"...)
-	for _, c := range []api.Control{response(1, "ann", "other"), response(1, "ann", "Secret"), response(1, "ann", ""), response(1, "eve", "secret"), response(1, "bad", strings.Repeat("x", 65)), response(1, "bad", "fine"), response(1, "Ann", "secret"), flipped, other} {
+	// By the digest of no password, and by the empty one, nobody is proved that has none, or one that may not be.
+	noughts := chap2.Response(chap2.Challenge(peer(), challenge(), "bad"), nthash.Hash{})
+	nobody := chaps.Lay(2, 1, chap2.Value(peer(), noughts), "bad")
+	for _, c := range []api.Control{nobody, response(1, "eve", ""), response(1, "bad", ""), response(1, "ann", "other"), response(1, "ann", "Secret"), response(1, "ann", ""), response(1, "eve", "secret"), response(1, "bad", strings.Repeat("x", 65)), response(1, "bad", "fine"), response(1, "Ann", "secret"), flipped, other} {
 		x := asked(t)
 		x, l := x.Take(c)
 		if !same(l, failure()) || x.State() != 3 || x.Name() != "" || x.Key() != [32]byte{} {

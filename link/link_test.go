@@ -14,6 +14,7 @@ import (
 	"euphroe/ipcp"
 	"euphroe/ipcpo"
 	"euphroe/link"
+	"euphroe/nthash"
 	"euphroe/pppf"
 )
 
@@ -209,6 +210,41 @@ func TestServerStepByStep(t *testing.T) {
 	x, out = x.Take(pack(pppf.IPCP, 1, 4, 3, 6, 0, 0, 0, 0))
 	if !is(out, "", pack(pppf.IPCP, 1, 2, 3, 6, 10, 0, 0, 1), pack(pppf.IPCP, 3, 4, 3, 6, 10, 0, 0, 9)) || x.Phase() != 3 || x.Addr() != 0 || x.Key() == [32]byte{} {
 		t.Error("down again", out, x.Phase())
+	}
+}
+
+// P33.1: step by step, what a client does: it asks nobody for a proof.
+func TestClientStepByStep(t *testing.T) {
+	x, _ := link.New(client()).Start()
+	x, out := x.Take(pack(pppf.LCP, 1, 7, 3, 5, 0xC2, 0x23, 0x81))
+	if !is(out, "", pack(pppf.LCP, 2, 7, 3, 5, 0xC2, 0x23, 0x81)) || x.Phase() != 1 {
+		t.Error(out, x.Phase())
+	}
+	x, out = x.Take(pack(pppf.LCP, 2, 1, 1, 4, 5, 20, 5, 6, 0, 0, 0, 6))
+	if !is(out, "") || x.Phase() != 2 {
+		t.Error(out, x.Phase())
+	}
+	r, _ := chap2.Prove([16]byte{9, 8, 7}, [16]byte{4}, "ann", "secret")
+	x, out = x.Take(pack(pppf.CHAP, 1, 3, chaps.Lay(1, 3, make([]byte, 16), "srv").Data...))
+	if len(out.Frames) != 1 || x.Phase() != 2 || x.Name() != "" {
+		t.Error(out, x.Phase())
+	}
+	x, out = x.Take(pack(pppf.CHAP, 1, 5, chaps.Lay(1, 5, append([]byte{4}, make([]byte, 15)...), "srv").Data...))
+	if !is(out, "", pack(pppf.CHAP, 2, 5, chaps.Lay(2, 5, chap2.Value([16]byte{9, 8, 7}, r), "ann").Data...)) {
+		t.Error(out)
+	}
+	hash, _ := nthash.Of("secret")
+	answer := chap2.Answer(hash, r, chap2.Challenge([16]byte{9, 8, 7}, [16]byte{4}, "ann"))
+	x, out = x.Take(pack(pppf.CHAP, 3, 5, []byte(answer)...))
+	if !is(out, "p", pack(pppf.IPCP, 1, 1, 3, 6, 0, 0, 0, 0, 129, 6, 0, 0, 0, 0)) || x.Phase() != 3 || x.Name() != "ann" || x.Key() == [32]byte{} || x.Addr() != 0 {
+		t.Error(out, x.Phase(), x.Name())
+	}
+	x, _ = x.Take(pack(pppf.IPCP, 3, 1, 3, 6, 10, 0, 0, 9))
+	x, _ = x.Take(pack(pppf.IPCP, 4, 2, 129, 6, 0, 0, 0, 0))
+	x, _ = x.Take(pack(pppf.IPCP, 2, 3, 3, 6, 10, 0, 0, 9))
+	x, out = x.Take(pack(pppf.IPCP, 1, 1, 3, 6, 10, 0, 0, 1))
+	if !is(out, "u", pack(pppf.IPCP, 2, 1, 3, 6, 10, 0, 0, 1)) || x.Phase() != 4 || x.Addr() != theirs {
+		t.Error(out, x.Phase(), x.Addr())
 	}
 }
 
@@ -439,6 +475,18 @@ func TestSend(t *testing.T) {
 		y, out, sent := c.x.Send(c.b)
 		if sent != c.want || c.want && !is(out, "", frame(pppf.IP, c.b...)) || !c.want && !is(out, "") || !reflect.DeepEqual(c.x, y) {
 			t.Errorf("%d bytes: %v, %v", len(c.b), out, sent)
+		}
+	}
+	// Within the MRU, but with more padding than can be laid.
+	c := client()
+	c.MRU = 65535
+	x, up := link.New(c).Start()
+	y, down := link.New(server()).Start()
+	_, y, _, _ = talk(x, y, up.Frames, down.Frames)
+	for _, size := range []int{4000, 4001, 9000} {
+		padded := append(datagram(ours, theirs, 4), make([]byte, size-24)...)
+		if _, out, sent := y.Send(padded); sent != (size == 4000) || sent != (len(out.Frames) == 1) {
+			t.Errorf("%d bytes: %d, %v", size, len(out.Frames), sent)
 		}
 	}
 	for phase := 0; phase <= 5; phase++ {

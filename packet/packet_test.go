@@ -220,7 +220,7 @@ func TestCheck(t *testing.T) {
 			}
 		}
 	}
-	for _, p := range []api.Packet{{}, {Type: 77, Attrs: all}, {Data: []byte{1}}, packet.OfData(make([]byte, 9000))} {
+	for _, p := range []api.Packet{{}, {Type: 77, Attrs: all}, {Type: 7, Attrs: []api.Attr{{ID: 9}, {ID: 1}}}, {Data: []byte{1}}, packet.OfData(make([]byte, 9000))} {
 		if e := packet.Check(p); e != api.OK {
 			t.Errorf("of data: %d", e)
 		}

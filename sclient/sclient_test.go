@@ -322,6 +322,7 @@ func all() map[string]api.Packet {
 	return map[string]api.Packet{
 		"req": packet.Of(1, attr.Proto(1)), "ack": bind.Ask(nonce()), "nak": packet.Of(3, attr.OfStatus(attr.Status{About: 1, Code: 5})), "con": bind.Connected([32]byte{1}, nonce(), hash()), "abort": packet.Of(5), "status": packet.Of(5, attr.OfStatus(attr.Status{})),
 		"disc": packet.Of(6), "dack": packet.Of(7), "echo": packet.Of(8), "resp": packet.Of(9), "data": packet.OfData([]byte{0}), "bad": packet.Of(1), "none": packet.Of(77), "form": packet.Of(2, attr.OfAsk(attr.Ask{Methods: 9})), "late": packet.Of(7, attr.Proto(1)),
+		"abortx": packet.Of(5, attr.Proto(1)), "discx": packet.Of(6, attr.OfStatus(attr.Status{About: 9})), "echox": packet.Of(8, attr.Proto(1)), "respx": packet.Of(9, attr.Proto(1)),
 	}
 }
 
@@ -347,19 +348,24 @@ func TestPackets(t *testing.T) {
 			if state >= 5 {
 				want, next, flags = nil, state, ""
 				switch {
-				case name == "abort" || name == "status" || state == 6 && (name == "dack" || name == "late"):
+				case name == "abort" || name == "status" || name == "abortx" || state == 6 && (name == "dack" || name == "late"):
 					next, flags = 7, "c"
-				case state == 6 && name == "disc":
+				case state == 6 && (name == "disc" || name == "discx"):
 					want = dack
 				}
 			}
 			x := at(t, state)
+			x.Tick()
+			x.Tick()
 			out := x.Bytes(laid(p))
 			if !is(out, flags, want) || x.State() != next {
 				t.Errorf("%s in %d: %v, %d, not %v, %d", name, state, out, x.State(), want, next)
 			}
 			if next >= 5 && (x.Key() != [32]byte{} || x.Nonce() != [32]byte{} || x.Addr() != 0) {
 				t.Errorf("%s in %d: %v", name, state, seen(x))
+			}
+			if wound := map[int]int{2: 18, 3: 18, 4: 10, 5: 1, 6: 3}; next == state && x.Left() != wound[state] {
+				t.Errorf("%s in %d: %d left", name, state, x.Left())
 			}
 			if left := map[int]int{5: 3, 7: 0}; next != state && x.Left() != left[next] {
 				t.Errorf("%s in %d: %d left", name, state, x.Left())
@@ -556,6 +562,37 @@ func TestRefused(t *testing.T) {
 	l, did := talks(t, x, peer(), out.Bytes, 0)
 	if did.Bound || x.State() != 6 || x.Key() != [32]byte{} || l.Phase() != 5 {
 		t.Error(did, seen(x), l.Phase())
+	}
+}
+
+// P35.1: a link that proves itself anew, as it is connected, binds nothing more.
+func TestAnew(t *testing.T) {
+	x := at(t, 4)
+	l, out := peer().Start()
+	up := x.Bytes(laid(packet.OfData(out.Frames[0])))
+	data, others := frames(t, up.Bytes)
+	proved := 0
+	for range 40 {
+		var down [][]byte
+		for _, f := range data {
+			l, out = l.Take(f)
+			down = append(down, out.Frames...)
+			if out.Proved {
+				proved++
+			}
+		}
+		data = nil
+		for _, f := range down {
+			did := x.Bytes(laid(packet.OfData(f)))
+			said, more := frames(t, did.Bytes)
+			data, others = append(data, said...), append(others, more...)
+			if did.Bound || did.Closed {
+				t.Error("bound again", did)
+			}
+		}
+	}
+	if proved != 1 || len(others) != 0 || x.State() != 4 || x.Key() != l.Key() {
+		t.Error(proved, others, seen(x))
 	}
 }
 

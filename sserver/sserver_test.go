@@ -278,6 +278,7 @@ func all() map[string]api.Packet {
 	return map[string]api.Packet{
 		"req": packet.Of(1, attr.Proto(1)), "ack": bind.Ask(nonce()), "nak": packet.Of(3, attr.OfStatus(attr.Status{About: 1, Code: 5})), "con": bind.Connected([32]byte{1}, nonce(), hash()), "abort": packet.Of(5), "status": packet.Of(5, attr.OfStatus(attr.Status{})),
 		"disc": packet.Of(6), "dack": packet.Of(7), "echo": packet.Of(8), "resp": packet.Of(9), "data": packet.OfData([]byte{0}), "bad": packet.Of(1), "none": packet.Of(77), "form": packet.Of(2, attr.OfAsk(attr.Ask{Methods: 9})), "late": packet.Of(7, attr.Proto(1)),
+		"abortx": packet.Of(5, attr.Proto(1)), "discx": packet.Of(6, attr.OfStatus(attr.Status{About: 9})), "echox": packet.Of(8, attr.Proto(1)), "respx": packet.Of(9, attr.Proto(1)),
 	}
 }
 
@@ -290,7 +291,7 @@ func TestPackets(t *testing.T) {
 			}
 			want, next, flags := abort(6), 4, ""
 			switch name {
-			case "bad", "none", "form", "late":
+			case "bad", "none", "form", "late", "abortx", "discx", "echox", "respx":
 				want = abort(2)
 			case "abort", "status":
 				want, next, flags = laid(packet.Of(5)), 6, "c"
@@ -308,19 +309,24 @@ func TestPackets(t *testing.T) {
 			if state >= 4 {
 				want, next, flags = nil, state, ""
 				switch {
-				case name == "abort" || name == "status" || state == 5 && (name == "dack" || name == "late"):
+				case name == "abort" || name == "status" || name == "abortx" || state == 5 && (name == "dack" || name == "late"):
 					next, flags = 6, "c"
-				case state == 5 && name == "disc":
+				case state == 5 && (name == "disc" || name == "discx"):
 					want = laid(packet.Of(7))
 				}
 			}
 			x := at(t, state)
+			x.Tick()
+			x.Tick()
 			out := x.Bytes(laid(p))
 			if !is(out, flags, want) || x.State() != next {
 				t.Errorf("%s in %d: %v, %d, not %v, %d", name, state, out, x.State(), want, next)
 			}
 			if next >= 4 && (x.Key() != [32]byte{} || x.Name() != "" || x.Addr() != 0) {
 				t.Errorf("%s in %d: %v", name, state, seen(x))
+			}
+			if wound := map[int]int{1: 18, 2: 18, 3: 10, 4: 1, 5: 3}; next == state && x.Left() != wound[state] {
+				t.Errorf("%s in %d: %d left", name, state, x.Left())
 			}
 			if left := map[int]int{4: 3, 6: 0}; next != state && x.Left() != left[next] {
 				t.Errorf("%s in %d: %d left", name, state, x.Left())

@@ -287,6 +287,14 @@ func TestRoute(t *testing.T) {
 			t.Errorf("%x: %v, %d", b, o, e)
 		}
 	}
+	zero := of(t, config())
+	zero.Open(0, hash(), draw())
+	bound(t, zero, 0, first)
+	for _, dst := range []api.Addr{0, first + 1, first + 2, 7} {
+		if o, e := zero.Route(datagram(1, dst)); !empty(o) || e != api.ErrNone {
+			t.Error("to nobody, as the channel 0 is bound", dst, o, e)
+		}
+	}
 	s.Drop(2)
 	if o, e := s.Route(datagram(1, first+1)); !empty(o) || e != api.ErrNone {
 		t.Error("of one that is gone", o, e)

@@ -292,6 +292,39 @@ func TestSendAndRoute(t *testing.T) {
 	}
 }
 
+// P39.1: data are noted of their channel, and go by its session.
+func TestDataOfChannels(t *testing.T) {
+	w := of(t)
+	do(w, comes(3, 9, "", ""), comes(1, 1, "bob", "pass"), comes(1, 2, "ann", "secret"))
+	w.Fair(2)
+	if l := do(w, world.Event{Kind: 9, Chan: 2, Addr: 5, Data: []byte("up")}, world.Event{Kind: 10, Chan: 1, Addr: 6, Data: []byte("down")}, world.Event{Kind: 4, Chan: 2, N: 999}, world.Event{Kind: 5, Chan: 1, N: 999}); !same(l, world.Note{Chan: 2, What: 3, Data: datagram(first+2, 5, []byte("up"))}, world.Note{Client: true, Chan: 1, What: 3, Data: datagram(6, first+1, []byte("down"))}) {
+		t.Error(l)
+	}
+}
+
+// P39.1: a client's draws: its number, and its peer's bytes; a session's: its nonce, its challenge, and its number.
+func TestDraws(t *testing.T) {
+	w := of(t)
+	x := comes(1, 1, "ann", "secret")
+	x.Peer, x.Magic = [16]byte(bytes.Repeat([]byte{0xAB}, 16)), 0xF1F2F3F4
+	x.Draw = table.Draw{Nonce: [32]byte(bytes.Repeat([]byte{0xCD}, 32)), Chal: [16]byte(bytes.Repeat([]byte{0xEF}, 16)), Magic: 0xE1E2E3E4}
+	w.Do(x)
+	var up, down []byte
+	for range 10 {
+		up = append(up, w.Chan(0).Peek(chans.Up)...)
+		w.Do(world.Event{Kind: 4, N: 65536})
+		down = append(down, w.Chan(0).Peek(chans.Down)...)
+		w.Do(world.Event{Kind: 5, N: 65536})
+	}
+	for _, c := range []struct {
+		way, want []byte
+	}{{up, []byte{5, 6, 0xF1, 0xF2, 0xF3, 0xF4}}, {up, append([]byte{49}, x.Peer[:]...)}, {down, x.Draw.Nonce[:]}, {down, append([]byte{16}, x.Draw.Chal[:]...)}, {down, []byte{5, 6, 0xE1, 0xE2, 0xE3, 0xE4}}} {
+		if !bytes.Contains(c.way, c.want) {
+			t.Errorf("%x is not said", c.want)
+		}
+	}
+}
+
 // P39.1: closing from above, and from below; a channel is not shut by it.
 func TestClose(t *testing.T) {
 	disc, _ := packet.Lay(packet.Of(6))
@@ -333,6 +366,15 @@ func TestFair(t *testing.T) {
 	w.Do(comes(2, 1, "ann", "secret"))
 	if l := w.Fair(math.MaxInt); !same(l, world.Note{Client: true, What: 2}) {
 		t.Error(l)
+	}
+	lefts := map[int]int{}
+	for _, n := range []int{199, 200, 201, 1000, math.MaxInt} {
+		w := bound(t)
+		w.Fair(n)
+		lefts[n] = w.Client(0).Left()
+	}
+	if lefts[199] == lefts[200] || lefts[201] != lefts[200] || lefts[1000] != lefts[200] || lefts[math.MaxInt] != lefts[200] {
+		t.Error("rounds above 200", lefts)
 	}
 	// Of two that echo each other a link lasts as long as there are rounds: an echo in each tenth one.
 	w = bound(t)
