@@ -553,18 +553,30 @@ func forward(t *testing.T, n nego.Nego) nego.Nego {
 	return n
 }
 
-// P27.1: identifiers go on modulo 256, with rejects among them.
+// P27.1: identifiers go on modulo 256; a reject has one more, and leaves what was asked for to be answered.
 func TestIdentifiers(t *testing.T) {
-	n := at(t, rules(), fsm.Opened)
-	id := byte(1)
+	n := nego.New(rules())
+	n, _ = n.Do(fsm.Open)
+	id := byte(0)
 	for range 300 {
 		var out nego.Out
-		n, out = n.Take(pack(99, 1))
+		n, out = n.Do(fsm.Up)
 		id++
-		if !same(out, "", pack(7, id, 99, 1, 0, 4)) {
+		if !same(out, "", pack(1, id, asked()...)) {
 			t.Fatal(id, out)
 		}
+		if n, out = n.Take(pack(99, 1)); !same(out, "", pack(7, id+1, 99, 1, 0, 4)) {
+			t.Fatal(id, out)
+		}
+		if n, out = n.Take(pack(98, 2)); !same(out, "", pack(7, id+1, 98, 2, 0, 4)) {
+			t.Fatal(id, out)
+		}
+		if n, _ = n.Take(pack(2, id, asked()...)); n.State() != fsm.AckRcvd {
+			t.Fatal(id, n.State())
+		}
+		n, _ = n.Do(fsm.Down)
 	}
+	n = at(t, rules(), fsm.Opened)
 	if _, out := n.Take(pack(99, 1, make([]byte, 3000)...)); len(out.Packets[0].Data) != 1396 {
 		t.Error(len(out.Packets[0].Data))
 	}
