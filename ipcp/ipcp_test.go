@@ -120,6 +120,20 @@ func TestOpenAndTheirs(t *testing.T) {
 	}
 }
 
+// P32.1: the negotiation's rejects go on with its identifiers.
+func TestCodesAreRejected(t *testing.T) {
+	x, _ := ipcp.New(server()).Do(fsm.Up)
+	var out nego.Out
+	for id := byte(1); id < 4; id++ {
+		if x, out = x.Take(pack(9, 1)); !same(out.Packets, pack(7, id, 9, 1, 0, 4)) {
+			t.Error(id, out)
+		}
+	}
+	if _, out = x.Do(fsm.Open); !same(out.Packets, pack(1, 4, 3, 6, 10, 0, 0, 1)) {
+		t.Error(out)
+	}
+}
+
 // P32.2: what the pairs lack to 65535.
 func TestSum(t *testing.T) {
 	for _, c := range []struct {

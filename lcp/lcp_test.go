@@ -264,6 +264,25 @@ func TestAskAndReject(t *testing.T) {
 	}
 }
 
+// P28.1: the negotiation's rejects go on with its identifiers, beside the end's own.
+func TestCodesAreRejected(t *testing.T) {
+	x := opened(t, true)
+	for id := byte(2); id < 5; id++ {
+		var out nego.Out
+		x, out, _ = x.Take(pack(99, 1))
+		if !same(out.Packets, pack(7, id, 99, 1, 0, 4)) {
+			t.Error(id, out)
+		}
+	}
+	x, c, _ := x.Ask(nil)
+	if !same([]api.Control{c}, pack(9, 1, 0, 0, 0, 7)) {
+		t.Error(c)
+	}
+	if _, out := x.Do(fsm.Close); !same(out.Packets, pack(5, 5)) {
+		t.Error(out)
+	}
+}
+
 // P28.2: of one that is not opened nothing.
 func TestAskAndRejectNothing(t *testing.T) {
 	l := []lcp.End{{}, lcp.New(true, 1400, 7), started(true, 1400, 7), started(false, 0, 0)}

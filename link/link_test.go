@@ -435,6 +435,27 @@ func TestReject(t *testing.T) {
 	}
 }
 
+// P33.1: codes that are none are rejected by the negotiation that they came to, by its identifiers alone.
+func TestRejectCodes(t *testing.T) {
+	x := at(t, true, 4)
+	last := map[uint16]byte{pppf.LCP: 1, pppf.IPCP: 1}
+	for i := range 6 {
+		proto := []uint16{pppf.LCP, pppf.IPCP, pppf.LCP}[i%3]
+		var out link.Out
+		x, out = x.Take(pack(proto, 99, 1))
+		last[proto]++
+		if !is(out, "", pack(proto, 7, last[proto], 99, 1, 0, 4)) {
+			t.Error(i, out)
+		}
+	}
+	if _, out := x.Take(frame(0x0201, 1)); !is(out, "", pack(pppf.LCP, 8, 1, 2, 1, 1)) {
+		t.Error("another protocol", out)
+	}
+	if _, out := x.Close(); !is(out, "", pack(pppf.LCP, 5, 6)) {
+		t.Error("behind the rejects", out)
+	}
+}
+
 // P33.1, P33.4: which datagrams are delivered, as they come.
 func TestDeliver(t *testing.T) {
 	a, b := both(t)

@@ -209,8 +209,9 @@ func sends(l []fsm.Action, id byte, came, answer api.Control) (string, []api.Con
 		case fsm.SendTermAck:
 			packets = append(packets, pack(6, came.ID))
 		case fsm.SendReject:
+			id++
 			b, _ := ctl.Lay(came)
-			packets = append(packets, pack(7, id+1, b...))
+			packets = append(packets, pack(7, id, b...))
 		}
 	}
 	return flags, packets
@@ -553,32 +554,117 @@ func forward(t *testing.T, n nego.Nego) nego.Nego {
 	return n
 }
 
-// P27.1: identifiers go on modulo 256; a reject has one more, and leaves what was asked for to be answered.
+// P27.1: identifiers go on modulo 256, of what is asked for, of rejects, and of what asks for an end.
 func TestIdentifiers(t *testing.T) {
 	n := nego.New(rules())
 	n, _ = n.Do(fsm.Open)
 	id := byte(0)
+	var out nego.Out
 	for range 300 {
-		var out nego.Out
 		n, out = n.Do(fsm.Up)
 		id++
 		if !same(out, "", pack(1, id, asked()...)) {
 			t.Fatal(id, out)
 		}
-		if n, out = n.Take(pack(99, 1)); !same(out, "", pack(7, id+1, 99, 1, 0, 4)) {
+		for _, came := range []api.Control{pack(99, 1), pack(98, id), pack(99, 1)} {
+			n, out = n.Take(came)
+			id++
+			if !same(out, "", pack(7, id, came.Code, came.ID, 0, 4)) {
+				t.Fatal(id, out)
+			}
+		}
+		for range 3 {
+			n, out = n.Tick()
+		}
+		id++
+		if !same(out, "", pack(1, id, asked()...)) {
 			t.Fatal(id, out)
 		}
-		if n, out = n.Take(pack(98, 2)); !same(out, "", pack(7, id+1, 98, 2, 0, 4)) {
+		n, out = n.Do(fsm.Close)
+		id++
+		if !same(out, "", pack(5, id)) {
 			t.Fatal(id, out)
 		}
-		if n, _ = n.Take(pack(2, id, asked()...)); n.State() != fsm.AckRcvd {
-			t.Fatal(id, n.State())
-		}
+		n, _ = n.Take(pack(99, 1))
+		id++
 		n, _ = n.Do(fsm.Down)
+		n, _ = n.Do(fsm.Open)
 	}
 	n = at(t, rules(), fsm.Opened)
 	if _, out := n.Take(pack(99, 1, make([]byte, 3000)...)); len(out.Packets[0].Data) != 1396 {
 		t.Error(len(out.Packets[0].Data))
+	}
+}
+
+// P27.1: each reject is of an identifier one more, wherever it is sent, and what is sent behind it goes on.
+func TestRejectsGoOn(t *testing.T) {
+	for s := fsm.Closed; s <= fsm.Opened; s++ {
+		n, id := at(t, rules(), s), last(s)
+		for range 260 {
+			var out nego.Out
+			n, out = n.Take(pack(0, 0))
+			id++
+			if n.State() != s || !same(out, "", pack(7, id, 0, 0, 0, 4)) {
+				t.Fatal(s, id, n.State(), out)
+			}
+		}
+	}
+	for _, r := range []nego.Rules{{}, rules(), client(), server()} {
+		n, _ := nego.New(r).Do(fsm.Up)
+		for id := byte(1); id < 3; id++ {
+			var out nego.Out
+			if n, out = n.Take(pack(0, 0)); !same(out, "", pack(7, id, 0, 0, 0, 4)) {
+				t.Fatal(id, out)
+			}
+		}
+		if _, out := n.Do(fsm.Open); !same(out, "", pack(1, 3, sentBy(r)...)) {
+			t.Error(out)
+		}
+	}
+}
+
+// P27.1: where a reject may not be, nothing is sent, and no identifier is gone.
+func TestNoReject(t *testing.T) {
+	n := nego.New(rules())
+	n, _ = n.Take(pack(99, 1))
+	n, _ = n.Do(fsm.Open)
+	n, out := n.Take(pack(99, 1))
+	if !same(out, "") {
+		t.Error(out)
+	}
+	if _, out := n.Do(fsm.Up); !same(out, "", pack(1, 1, asked()...)) {
+		t.Error(out)
+	}
+}
+
+// P27.1: the last identifier, by which a ConfAck, a ConfNak and a ConfRej count, is a reject's, too.
+func TestAnsweredBehindAReject(t *testing.T) {
+	n, _ := at(t, rules(), fsm.ReqSent).Take(pack(99, 1))
+	for _, c := range []struct {
+		code byte
+		data []byte
+		s    fsm.State
+		sent []api.Control
+	}{
+		{2, asked(), fsm.AckRcvd, nil},
+		{3, []byte{1, 4, 4, 0}, fsm.ReqSent, []api.Control{pack(1, 3, 1, 4, 4, 0, 5, 6, 0, 0, 0, 7)}},
+		{4, []byte{1, 4, 5, 120}, fsm.ReqSent, []api.Control{pack(1, 3, 5, 6, 0, 0, 0, 7)}},
+	} {
+		for _, id := range []byte{0, 1, 3} {
+			if after, out := n.Take(pack(c.code, id, c.data...)); !reflect.DeepEqual(after, n) || !same(out, "") {
+				t.Errorf("%d of %d: %v", c.code, id, out)
+			}
+		}
+		if after, out := n.Take(pack(c.code, 2, c.data...)); after.State() != c.s || !same(out, "", c.sent...) {
+			t.Errorf("%d: %d, %v", c.code, after.State(), out)
+		}
+	}
+	// What was not answered is sent again, and then it can be.
+	for range 3 {
+		n, _ = n.Tick()
+	}
+	if n, _ = n.Take(pack(2, 3, asked()...)); n.State() != fsm.AckRcvd {
+		t.Error(n.State())
 	}
 }
 
